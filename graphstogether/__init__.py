@@ -1,0 +1,1 @@
+"""Graphs put together: the functions are in graphstogether.graphs."""

@@ -1,0 +1,55 @@
+"""Graphs that are made of two graphs.
+
+A graph is handed in as how many places it has and a flat list, two numbers for each arrow.
+Within this file an arrow is a pair: from where, to where.
+"""
+
+NO_GRAPH = -22
+MOST_PLACES = 5
+
+
+def beside(n, m, first, second):
+    """Answer the graph that has the first's places and, behind them, the second's, with all arrows of both."""
+    if not (is_graph(n, first) and is_graph(m, second)):
+        return [NO_GRAPH]
+    # Every place of the second comes behind every one of the first, so the arrows rise as they stand.
+    behind = [(n + u, n + v) for u, v in arrows_of(second)]
+    return answer(n + m, arrows_of(first) + behind)
+
+
+def both(n, m, first, second):
+    """Answer the graph of pairs of places, in which an arrow needs one of the first and one of the second."""
+    if not (is_graph(n, first) and is_graph(m, second)):
+        return [NO_GRAPH]
+    arrows = []
+    for u, u_end in arrows_of(first):
+        for v, v_end in arrows_of(second):
+            arrows.append((u * m + v, u_end * m + v_end))
+    # The loops go by where the first's arrow ends before they go by where the second's begins.
+    return answer(n * m, sorted(arrows))
+
+
+def is_graph(places, told):
+    """Tell whether a graph that is handed in is one."""
+    # How many places there are may be any number below 2^32, so it is only compared, never counted up to.
+    if places < 1 or places > MOST_PLACES or len(told) % 2 != 0:
+        return False
+    return all([place < places for place in told]) and is_rising(arrows_of(told))
+
+
+def is_rising(arrows):
+    """Tell whether each arrow is greater than the one ahead of it, so that none is there twice."""
+    return all([arrows[k - 1] < arrows[k] for k in range(1, len(arrows))])
+
+
+def arrows_of(told):
+    """Give the arrows of a flat list of even length."""
+    return [(told[k], told[k + 1]) for k in range(0, len(told), 2)]
+
+
+def answer(places, arrows):
+    """Give a made graph as it is answered: how many places, how many arrows, and these."""
+    numbers = [places, len(arrows)]
+    for begin, end in arrows:
+        numbers.extend([begin, end])
+    return numbers
