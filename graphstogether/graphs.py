@@ -1,11 +1,13 @@
-"""Graphs that are made of two graphs.
+"""Graphs that are made of two graphs, or of one.
 
 A graph is handed in as how many places it has and a flat list, two numbers for each arrow.
 Within this file an arrow is a pair: from where, to where.
 """
 
 NO_GRAPH = -22
+TOO_MANY = -75
 MOST_PLACES = 5
+MOST_WAYS = 27
 
 
 def beside(n, m, first, second):
@@ -27,6 +29,58 @@ def both(n, m, first, second):
             arrows.append((u * m + v, u_end * m + v_end))
     # The loops go by where the first's arrow ends before they go by where the second's begins.
     return answer(n * m, sorted(arrows))
+
+
+def ways(n, m, first, second):
+    """Answer the graph of all ways to give each place of the first one of the second's."""
+    if not (is_graph(n, first) and is_graph(m, second)):
+        return [NO_GRAPH]
+    if count_ways(n, m) > MOST_WAYS:
+        return [TOO_MANY]
+    every_way = all_ways(n, m)
+    return answer(len(every_way), arrows_between(every_way, arrows_of(first), arrows_of(second)))
+
+
+def turned(n, first):
+    """Answer the graph in which each arrow leads the other way."""
+    if not is_graph(n, first):
+        return [NO_GRAPH]
+    # The arrows rise by where they began, which is where they end now.
+    return answer(n, sorted([(v, u) for u, v in arrows_of(first)]))
+
+
+def count_ways(n, m):
+    """Tell how many ways there are to give each of n places one of m."""
+    count = 1
+    for place in range(n):
+        count = count * m
+    return count
+
+
+def all_ways(n, m):
+    """Give every way to give each of n places one of m, in order by the first place at which they differ."""
+    every_way = [[]]
+    for place in range(n):
+        longer = []
+        for way in every_way:
+            longer.extend([way + [given] for given in range(m)])
+        every_way = longer
+    return every_way
+
+
+def arrows_between(every_way, arrows, targets):
+    """Give the arrows from way to way, each way by its number, rising."""
+    between = []
+    for k, one in enumerate(every_way):
+        for j, other in enumerate(every_way):
+            if leads(one, other, arrows, targets):
+                between.append((k, j))
+    return between
+
+
+def leads(one, other, arrows, targets):
+    """Tell whether each arrow becomes one of the targets: its begin by the one way, its end by the other."""
+    return all([(one[u], other[v]) in targets for u, v in arrows])
 
 
 def is_graph(places, told):
