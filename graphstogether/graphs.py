@@ -1,4 +1,4 @@
-"""Graphs that are made of two graphs, or of one.
+"""Graphs that are made of two graphs, or of one, and how many maps lead into them or from them.
 
 A graph is handed in as how many places it has and a flat list, two numbers for each arrow.
 Within this file an arrow is a pair: from where, to where.
@@ -8,34 +8,28 @@ NO_GRAPH = -22
 TOO_MANY = -75
 MOST_PLACES = 5
 MOST_WAYS = 27
+MOST_COUNTED_PLACES = 3
 
 
 def beside(n, m, first, second):
     """Answer the graph that has the first's places and, behind them, the second's, with all arrows of both."""
     if not (is_graph(n, first) and is_graph(m, second)):
         return [NO_GRAPH]
-    # Every place of the second comes behind every one of the first, so the arrows rise as they stand.
-    behind = [(n + u, n + v) for u, v in arrows_of(second)]
-    return answer(n + m, arrows_of(first) + behind)
+    return answer(n + m, arrows_beside(n, arrows_of(first), arrows_of(second)))
 
 
 def both(n, m, first, second):
     """Answer the graph of pairs of places, in which an arrow needs one of the first and one of the second."""
     if not (is_graph(n, first) and is_graph(m, second)):
         return [NO_GRAPH]
-    arrows = []
-    for u, u_end in arrows_of(first):
-        for v, v_end in arrows_of(second):
-            arrows.append((u * m + v, u_end * m + v_end))
-    # The loops go by where the first's arrow ends before they go by where the second's begins.
-    return answer(n * m, sorted(arrows))
+    return answer(n * m, arrows_at_once(m, arrows_of(first), arrows_of(second)))
 
 
 def ways(n, m, first, second):
     """Answer the graph of all ways to give each place of the first one of the second's."""
     if not (is_graph(n, first) and is_graph(m, second)):
         return [NO_GRAPH]
-    if count_ways(n, m) > MOST_WAYS:
+    if number_of_ways(n, m) > MOST_WAYS:
         return [TOO_MANY]
     every_way = all_ways(n, m)
     return answer(len(every_way), arrows_between(every_way, arrows_of(first), arrows_of(second)))
@@ -49,7 +43,61 @@ def turned(n, first):
     return answer(n, sorted([(v, u) for u, v in arrows_of(first)]))
 
 
-def count_ways(n, m):
+def countbeside(n, m, o, first, second, third):
+    """Answer how many maps into the third there are: of both, beside one another, then of each alone."""
+    if not (is_graph(n, first) and is_graph(m, second) and is_graph(o, third)):
+        return [NO_GRAPH]
+    if n > MOST_COUNTED_PLACES or m > MOST_COUNTED_PLACES:
+        return [TOO_MANY]
+    one = arrows_of(first)
+    other = arrows_of(second)
+    targets = arrows_of(third)
+    return [
+        count_maps(n + m, arrows_beside(n, one, other), o, targets),
+        count_maps(n, one, o, targets),
+        count_maps(m, other, o, targets),
+    ]
+
+
+def countboth(n, m, o, first, second, third):
+    """Answer how many maps of the third there are: into both at once, then into each alone."""
+    if not (is_graph(n, first) and is_graph(m, second) and is_graph(o, third)):
+        return [NO_GRAPH]
+    if n > MOST_COUNTED_PLACES or m > MOST_COUNTED_PLACES or o > MOST_COUNTED_PLACES:
+        return [TOO_MANY]
+    one = arrows_of(first)
+    other = arrows_of(second)
+    arrows = arrows_of(third)
+    return [
+        count_maps(o, arrows, n * m, arrows_at_once(m, one, other)),
+        count_maps(o, arrows, n, one),
+        count_maps(o, arrows, m, other),
+    ]
+
+
+def arrows_beside(n, one, other):
+    """Give the arrows of two graphs beside one another, of which the one has n places, rising."""
+    # Every place of the other comes behind every one of the one, so the arrows rise as they stand.
+    return one + [(n + u, n + v) for u, v in other]
+
+
+def arrows_at_once(m, one, other):
+    """Give the arrows of two graphs both at once, of which the other has m places, rising."""
+    arrows = []
+    for u, u_end in one:
+        for v, v_end in other:
+            arrows.append((u * m + v, u_end * m + v_end))
+    # The loops go by where the one's arrow ends before they go by where the other's begins.
+    return sorted(arrows)
+
+
+def count_maps(places, arrows, target_places, targets):
+    """Tell how many maps of one graph into another there are."""
+    every_way = all_ways(places, target_places)
+    return len([way for way in every_way if leads(way, way, arrows, targets)])
+
+
+def number_of_ways(n, m):
     """Tell how many ways there are to give each of n places one of m."""
     count = 1
     for place in range(n):
@@ -80,7 +128,10 @@ def arrows_between(every_way, arrows, targets):
 
 def leads(one, other, arrows, targets):
     """Tell whether each arrow becomes one of the targets: its begin by the one way, its end by the other."""
-    return all([(one[u], other[v]) in targets for u, v in arrows])
+    for u, v in arrows:
+        if (one[u], other[v]) not in targets:
+            return False
+    return True
 
 
 def is_graph(places, told):

@@ -4,6 +4,12 @@ import itertools
 
 MOST = 4294967295
 
+# Graphs of three places.
+PATH = [0, 1, 1, 2]
+CYCLE = [0, 1, 1, 2, 2, 0]
+OUTWARD = [0, 1, 0, 2]
+INWARD = [1, 0, 2, 0]
+
 
 def all_arrows(places):
     return list(itertools.product(range(places), repeat=2))
@@ -32,15 +38,45 @@ def arrow_set(told):
 
 
 def count_maps(places, told, target_places, target_told):
-    targets = arrow_set(target_told)
+    arrows, targets = arrow_set(told), arrow_set(target_told)
     return sum(
-        all((given[u], given[v]) in targets for u, v in arrow_set(told))
+        all((given[u], given[v]) in targets for u, v in arrows)
         for given in itertools.product(range(target_places), repeat=places)
     )
 
 
+def turn(told):
+    """The arrows turned about."""
+    return flat(sorted(zip(told[1::2], told[0::2])))
+
+
+def other_way_about(places, told):
+    """The same graph with its places numbered the other way about."""
+    return flat(sorted((places - 1 - u, places - 1 - v) for u, v in arrow_set(told)))
+
+
 def complete(places):
     return flat(all_arrows(places))
+
+
+def without_own(places):
+    """Every arrow but those from a place to itself."""
+    return flat((u, v) for u, v in all_arrows(places) if u != v)
+
+
+def some_of_three_places():
+    """Few enough to be taken three at a time in every way."""
+    return [(3, told) for told in [[], PATH, CYCLE] + every_graph(3)[3::80]]
+
+
+def some_triples():
+    """Three graphs each, of like and unlike numbers of places: all of 1 or 2 places, some of 3 places."""
+    small, three = small_graphs(), some_of_three_places()
+    yield from itertools.product(small, repeat=3)
+    yield from itertools.product(three, repeat=3)
+    yield from itertools.product(three, small[::5], small[::5])
+    yield from itertools.product(small[::5], three, small[::5])
+    yield from itertools.product(small[::5], small[::5], three)
 
 
 NO_GRAPHS = (

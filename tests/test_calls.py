@@ -9,11 +9,12 @@ import pathlib
 import unittest
 
 import graphstogether.graphs
-from graphstogether.graphs import beside, both, turned, ways
-from helpers import GRAPHS, MOST, NO_GRAPHS, complete, every_graph
+from graphstogether.graphs import beside, both, countbeside, countboth, turned, ways
+from helpers import CYCLE, GRAPHS, MOST, NO_GRAPHS, PATH, complete, every_graph
 
-# The calls that are handed two graphs.
+# The calls that are handed two graphs, and those that are handed three.
 CALLS = (beside, both, ways)
+COUNTS = (countbeside, countboth)
 
 
 class RefusalTest(unittest.TestCase):
@@ -79,6 +80,78 @@ class RefusalTest(unittest.TestCase):
             self.assertEqual(turned(places, []) == [-22], refused, places)
 
 
+def handed_in(graphs):
+    """Graphs, each told as a pair, as a call takes them: all numbers of places, then all lists."""
+    return [places for places, told in graphs] + [told for places, told in graphs]
+
+
+def with_one_graph(places, told, others):
+    """The graph as the first, as the second and as the third, the others of one place."""
+    return [handed_in(others[:k] + [(places, told)] + others[k:]) for k in range(3)]
+
+
+class RefusalOfCountsTest(unittest.TestCase):
+    def check_no_graph(self, graphs):
+        for call in COUNTS:
+            # A message, since there are too many of these for a subtest each.
+            self.assertEqual(call(*handed_in(graphs)), [-22], (call.__name__, graphs))
+
+    def test_one_of_the_three_is_no_graph(self):
+        for (name, places, told), one, other in itertools.product(NO_GRAPHS, GRAPHS, GRAPHS):
+            wrong = (places, told)
+            self.check_no_graph([wrong, one, other])
+            self.check_no_graph([one, wrong, other])
+            self.check_no_graph([one, other, wrong])
+
+    def test_two_of_the_three_are_no_graphs(self):
+        for one, other, graph in itertools.product(NO_GRAPHS, NO_GRAPHS, GRAPHS):
+            self.check_no_graph([graph, one[1:], other[1:]])
+            self.check_no_graph([one[1:], graph, other[1:]])
+            self.check_no_graph([one[1:], other[1:], graph])
+
+    def test_none_of_the_three_is_a_graph(self):
+        for wrong in itertools.product(NO_GRAPHS, repeat=3):
+            self.check_no_graph([(places, told) for name, places, told in wrong])
+
+    def test_no_graph_comes_ahead_of_too_many_places(self):
+        wrong = ((0, []), (6, []), (MOST, []), (2, [0]), (2, [2, 0]), (2, [0, 2]), (2, [0, 1, 0, 1]),
+                 (2, [1, 0, 0, 1]), (5, [0] * 60), (4, [0, 4]), (5, [1, 0, 0, 1]))
+        for (places, told), large in itertools.product(wrong, ((4, []), (5, []), (4, PATH), (5, complete(5)))):
+            for graph in ((1, [0, 0]), large):
+                for order in itertools.permutations([(places, told), large, graph]):
+                    self.check_no_graph(order)
+
+    def test_each_list_is_held_against_its_own_places(self):
+        for call in COUNTS:
+            self.assertEqual(call(2, 3, 3, [0, 2], [0, 1], [0, 1]), [-22])
+            self.assertEqual(call(3, 2, 3, [0, 1], [0, 2], [0, 1]), [-22])
+            self.assertEqual(call(3, 3, 2, [0, 1], [0, 1], [0, 2]), [-22])
+
+    def test_refused_is_just_what_tells_no_graph(self):
+        lists = [list(told) for size in range(7) for told in itertools.product(range(3), repeat=size)]
+        for places in (1, 2):
+            graphs = every_graph(places)
+            for call, told in itertools.product(COUNTS, lists):
+                for handed in with_one_graph(places, told, [(1, []), (1, [0, 0])]):
+                    self.assertEqual(call(*handed) == [-22], told not in graphs, (call.__name__, handed))
+
+    def test_all_numbers_of_places(self):
+        for call, places in itertools.product(COUNTS, (0, 1, 2, 3, 4, 5, 6, 7, 60, MOST - 1, MOST)):
+            for handed in with_one_graph(places, [], [(1, []), (1, [])]):
+                refused = places not in (1, 2, 3, 4, 5)
+                self.assertEqual(call(*handed) == [-22], refused, (call.__name__, handed))
+
+
+class Unchanging(list):
+    """A list that fails as soon as it is changed, be it for a while."""
+
+    def refuse(self, *handed, **named):
+        raise AssertionError("what was handed in is changed")
+
+    append = clear = extend = insert = pop = remove = reverse = sort = refuse
+    __setitem__ = __delitem__ = __iadd__ = __imul__ = refuse
+
+
 def cases():
     """Calls with what is handed in, each list new: answered ones and refused ones."""
     pairs = (
@@ -94,6 +167,17 @@ def cases():
     for n, m, first, second in pairs:
         yield turned, (n, list(first))
         yield turned, (m, list(second))
+    triples = (
+        (2, 3, 3, [0, 1], PATH, CYCLE),
+        (3, 2, 2, PATH, [0, 0, 0, 1], [0, 1, 1, 1]),
+        (1, 1, 1, [], [], []),
+        (4, 2, 2, PATH, [0, 1], [0, 1]),
+        (2, 2, 2, [1, 0, 0, 1], [0, 1], [0, 1]),
+        (2, 2, 2, [0, 1], [0, 1, 0, 1], [0, 1]),
+        (2, 2, 2, [0, 1], [0, 1], [0, 2]),
+    )
+    for call, (n, m, o, first, second, third) in itertools.product(COUNTS, triples):
+        yield call, (n, m, o, list(first), list(second), list(third))
 
 
 class CallTest(unittest.TestCase):
@@ -102,6 +186,12 @@ class CallTest(unittest.TestCase):
             before = copy.deepcopy(handed)
             call(*handed)
             self.assertEqual(handed, before)
+
+    def test_what_is_handed_in_is_not_changed_for_a_while_either(self):
+        for call, handed in cases():
+            answered = call(*handed)
+            guarded = [Unchanging(value) if isinstance(value, list) else value for value in handed]
+            self.assertEqual(call(*guarded), answered)
 
     def test_what_is_answered_is_a_list_of_its_own(self):
         for call, handed in cases():
@@ -114,6 +204,8 @@ class CallTest(unittest.TestCase):
         self.assertEqual(beside(2, 2, told, told), [4, 2, 0, 1, 2, 3])
         self.assertEqual(both(2, 2, told, told), [4, 1, 0, 3])
         self.assertEqual(ways(2, 2, told, told), [4, 4, 0, 1, 0, 3, 1, 1, 1, 3])
+        self.assertEqual(countbeside(2, 2, 2, told, told, told), [1, 1, 1])
+        self.assertEqual(countboth(2, 2, 2, told, told, told), [1, 1, 1])
         self.assertEqual(told, [0, 1])
 
     def test_a_second_call_answers_the_same(self):
@@ -141,6 +233,10 @@ class CallTest(unittest.TestCase):
         self.assertEqual(both(n=1, m=2, first=[0, 0], second=[1, 0]), [2, 1, 1, 0])
         self.assertEqual(ways(n=1, m=2, first=[0, 0], second=[1, 0]), [2, 1, 1, 0])
         self.assertEqual(turned(n=2, first=[1, 0]), [2, 1, 0, 1])
+        self.assertEqual(
+            countbeside(n=1, m=2, o=3, first=[0, 0], second=[0, 1], third=[0, 0, 0, 1, 1, 2]), [3, 1, 3])
+        self.assertEqual(
+            countboth(n=1, m=2, o=3, first=[0, 0], second=[0, 0, 0, 1], third=[0, 1]), [4, 1, 4])
 
     def test_nothing_is_printed(self):
         out, err = io.StringIO(), io.StringIO()

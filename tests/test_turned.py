@@ -4,12 +4,7 @@ import itertools
 import unittest
 
 from graphstogether.graphs import both, turned, ways
-from helpers import complete, count_maps, every_graph, flat, small_graphs
-
-
-def turn(told):
-    """The arrows turned about, by the test's own means."""
-    return flat(sorted(zip(told[1::2], told[0::2])))
+from helpers import complete, count_maps, every_graph, small_graphs, turn
 
 
 class TurnedTest(unittest.TestCase):
