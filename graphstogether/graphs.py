@@ -9,6 +9,7 @@ TOO_MANY = -75
 MOST_PLACES = 5
 MOST_WAYS = 27
 MOST_COUNTED_PLACES = 3
+MOST_PLACES_INTO_WAYS = 2
 
 
 def beside(n, m, first, second):
@@ -72,6 +73,23 @@ def countboth(n, m, o, first, second, third):
         count_maps(o, arrows, n * m, arrows_at_once(m, one, other)),
         count_maps(o, arrows, n, one),
         count_maps(o, arrows, m, other),
+    ]
+
+
+def countways(n, m, o, first, second, third):
+    """Answer how many maps of the third into all ways there are, then of third and first at once into the second."""
+    if not (is_graph(n, first) and is_graph(m, second) and is_graph(o, third)):
+        return [NO_GRAPH]
+    # That there are no more than MOST_WAYS needn't be asked: of 3 places each there are just so many.
+    if o > MOST_PLACES_INTO_WAYS or n > MOST_COUNTED_PLACES or m > MOST_COUNTED_PLACES:
+        return [TOO_MANY]
+    one = arrows_of(first)
+    other = arrows_of(second)
+    arrows = arrows_of(third)
+    every_way = all_ways(n, m)
+    return [
+        count_maps(o, arrows, len(every_way), arrows_between(every_way, one, other)),
+        count_maps(o * n, arrows_at_once(n, arrows, one), m, other),
     ]
 
 

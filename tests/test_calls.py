@@ -9,12 +9,12 @@ import pathlib
 import unittest
 
 import graphstogether.graphs
-from graphstogether.graphs import beside, both, countbeside, countboth, turned, ways
+from graphstogether.graphs import beside, both, countbeside, countboth, countways, turned, ways
 from helpers import CYCLE, GRAPHS, MOST, NO_GRAPHS, PATH, complete, every_graph
 
 # The calls that are handed two graphs, and those that are handed three.
 CALLS = (beside, both, ways)
-COUNTS = (countbeside, countboth)
+COUNTS = (countbeside, countboth, countways)
 
 
 class RefusalTest(unittest.TestCase):
@@ -121,6 +121,15 @@ class RefusalOfCountsTest(unittest.TestCase):
                 for order in itertools.permutations([(places, told), large, graph]):
                     self.check_no_graph(order)
 
+    def test_no_graph_comes_ahead_of_too_many_ways(self):
+        # Were these graphs, there would be 3125, 81, 32, 32, 7776 and far more ways.
+        self.assertEqual(countways(5, 5, 1, [0, 5], complete(5), []), [-22])
+        self.assertEqual(countways(4, 3, 2, [0, 1], [0, 1, 0, 1], [0, 1]), [-22])
+        self.assertEqual(countways(5, 2, 1, [1, 0, 0, 1], [], [0, 0]), [-22])
+        self.assertEqual(countways(5, 2, 2, [0, 1], [0, 1], [0, 2]), [-22])
+        self.assertEqual(countways(5, 6, 5, [], [], []), [-22])
+        self.assertEqual(countways(MOST, MOST, MOST, [], [], []), [-22])
+
     def test_each_list_is_held_against_its_own_places(self):
         for call in COUNTS:
             self.assertEqual(call(2, 3, 3, [0, 2], [0, 1], [0, 1]), [-22])
@@ -170,6 +179,7 @@ def cases():
     triples = (
         (2, 3, 3, [0, 1], PATH, CYCLE),
         (3, 2, 2, PATH, [0, 0, 0, 1], [0, 1, 1, 1]),
+        (3, 3, 2, CYCLE, PATH, [0, 1, 1, 0]),
         (1, 1, 1, [], [], []),
         (4, 2, 2, PATH, [0, 1], [0, 1]),
         (2, 2, 2, [1, 0, 0, 1], [0, 1], [0, 1]),
@@ -206,6 +216,7 @@ class CallTest(unittest.TestCase):
         self.assertEqual(ways(2, 2, told, told), [4, 4, 0, 1, 0, 3, 1, 1, 1, 3])
         self.assertEqual(countbeside(2, 2, 2, told, told, told), [1, 1, 1])
         self.assertEqual(countboth(2, 2, 2, told, told, told), [1, 1, 1])
+        self.assertEqual(countways(2, 2, 2, told, told, told), [4, 4])
         self.assertEqual(told, [0, 1])
 
     def test_a_second_call_answers_the_same(self):
@@ -237,6 +248,8 @@ class CallTest(unittest.TestCase):
             countbeside(n=1, m=2, o=3, first=[0, 0], second=[0, 1], third=[0, 0, 0, 1, 1, 2]), [3, 1, 3])
         self.assertEqual(
             countboth(n=1, m=2, o=3, first=[0, 0], second=[0, 0, 0, 1], third=[0, 1]), [4, 1, 4])
+        self.assertEqual(
+            countways(n=1, m=3, o=2, first=[0, 0], second=[0, 0, 0, 1, 1, 2], third=[0, 1]), [3, 3])
 
     def test_nothing_is_printed(self):
         out, err = io.StringIO(), io.StringIO()
